@@ -223,11 +223,16 @@ type plainRun struct {
 	m     api.Module
 	steps int
 	fuel  int
+	sites [][2]int                         // of each cell the function and the instruction that made it
+	look  func(f, at int, v map[int]int64) // what is asked behind each instruction
 }
 
 // machineAgain: what a program of the first language does in at most fuel steps.
 func machineAgain(m api.Module, in []byte, fails []bool, fuel int) (o api.Outcome) {
-	r := &plainRun{heap: heap{dead: map[int64]bool{}, in: in, fails: fails}, m: m, fuel: fuel}
+	return (&plainRun{heap: heap{dead: map[int64]bool{}, in: in, fails: fails}, m: m, fuel: fuel}).run()
+}
+
+func (r *plainRun) run() (o api.Outcome) {
 	defer func() {
 		o.Out, o.Left, o.Steps = r.out, len(r.cells)-len(r.dead), r.steps
 		switch e := recover().(type) {
@@ -240,16 +245,17 @@ func machineAgain(m api.Module, in []byte, fails []bool, fuel int) (o api.Outcom
 			panic(e)
 		}
 	}()
-	for _, c := range m.Funcs {
+	for f, c := range r.m.Funcs {
 		if c.Name == "main" {
-			o.Code = r.call(c, nil)
+			o.Code = r.call(f, nil)
 		}
 	}
 	o.Kind = 1
 	return o
 }
 
-func (r *plainRun) call(c api.Code, args []int64) int64 {
+func (r *plainRun) call(f int, args []int64) int64 {
+	c := r.m.Funcs[f]
 	v := map[int]int64{}
 	for i, a := range args {
 		v[i] = a
@@ -280,6 +286,9 @@ func (r *plainRun) call(c api.Code, args []int64) int64 {
 			r.at(v[i.A])[field] = v[i.B]
 		case api.New:
 			v[i.D] = r.make()
+			if v[i.D] != 0 {
+				r.sites = append(r.sites, [2]int{f, at})
+			}
 		case api.Free:
 			r.free(v[i.A])
 		case api.IsNull:
@@ -289,7 +298,7 @@ func (r *plainRun) call(c api.Code, args []int64) int64 {
 			for _, a := range i.Args {
 				args = append(args, v[a])
 			}
-			v[i.D] = r.call(r.m.Funcs[i.F], args)
+			v[i.D] = r.call(i.F, args)
 		case api.Jump:
 			at = i.To - 1
 		case api.Branch:
@@ -299,6 +308,9 @@ func (r *plainRun) call(c api.Code, args []int64) int64 {
 			}
 		case api.Ret:
 			return v[i.A]
+		}
+		if r.look != nil {
+			r.look(f, at, v)
 		}
 	}
 }

@@ -77,6 +77,16 @@ func (r Row) Without(o Row) {
 	}
 }
 
+// Meets tells whether some number is in both rows.
+func (r Row) Meets(o Row) bool {
+	for k, w := range o {
+		if r[k]&w != 0 {
+			return true
+		}
+	}
+	return false
+}
+
 // Empty tells whether there is no number in the row.
 func (r Row) Empty() bool {
 	return !slices.ContainsFunc(r, func(w uint64) bool { return w != 0 })

@@ -255,14 +255,17 @@ func (s *Search) force() int {
 			s.set(l, forced, k)
 		}
 	}
+	found := none
+	look := s.lost
+forcing:
 	for s.looked < len(s.trail) {
 		l := -s.trail[s.looked]
 		s.looked++
-		if k := s.lost(l); k != none {
-			return k
+		if found = look(l); found != none {
+			break forcing
 		}
 	}
-	return none
+	return found
 }
 
 // lost looks at the clauses that watch a literal which is false now.

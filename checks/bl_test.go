@@ -194,6 +194,7 @@ func formedChance(r *rand.Rand, m api.Module) api.Module {
 	m = mixed(r, m, false)
 	for f := range m.Funcs {
 		c := &m.Funcs[f]
+		c.From = nil
 		for p := range c.Params {
 			if lentAgain(c.Ret) && lentAgain(c.Vars[p]) && r.IntN(2) == 0 {
 				c.From = append(c.From, p)
@@ -202,6 +203,7 @@ func formedChance(r *rand.Rand, m api.Module) api.Module {
 		for at := range c.Ins {
 			i := &c.Ins[at]
 			mode := func(v int) int { return (1 + r.IntN(3)) * btoi(c.Vars[v].T.Ptr) }
+			i.Mode = nil
 			switch {
 			case i.Op == api.Give || i.Op == api.Take || i.Op == api.Ret && c.Ret.T.Ptr:
 				i.Mode = []int{1 + r.IntN(3)}

@@ -160,6 +160,9 @@ func lentModules(n int) []api.Module {
 		}
 		l = append(l, shuffledVars(r, m))
 	}
+	for seed := range uint64(n) {
+		l = append(l, borrowing(seed))
+	}
 	return l
 }
 

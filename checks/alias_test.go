@@ -45,6 +45,7 @@ func meet(a, b []int) bool {
 }
 
 func TestP1301Example(t *testing.T) {
+	t.Parallel()
 	w, f := alias.Of(api.Module{})
 	is(t, "what is not right", f, api.NoMain)
 	must(t, "nothing", w == nil)
@@ -61,10 +62,11 @@ func TestP1301Example(t *testing.T) {
 }
 
 func TestP1301None(t *testing.T) {
+	t.Parallel()
 	var none *alias.View
 	some, _ := alias.Of(lowered("struct S { S * n; }; int main() { S * a = new S; a->n = a; return 0; }"))
 	is(t, "what is there", fmt.Sprint(some.May(0, 0, 0), some.Reach(0, 0), some.Inside(0, 0, 0), some.Ring(0)), "true [0] true true")
-	for _, n := range []int{-1, 5, 64, math.MinInt, math.MaxInt} {
+	for _, n := range []int{-1, 1, 5, 64, math.MinInt, math.MaxInt} {
 		is(t, "of nil", fmt.Sprint(none.May(0, 0, 0), none.Reach(n, 0), none.Inside(0, 0, 0), none.Ring(n), none.Pairs(n), none.Out(n)), "false [] false false [] []")
 		is(t, "of no function", fmt.Sprint(some.May(n, 0, 0), some.Reach(n, 0), some.Inside(n, 0, 0), some.Pairs(n), some.Out(n)), "false [] false [] []")
 		is(t, "of no variable", fmt.Sprint(some.May(0, n, 0), some.May(0, 0, n), some.Reach(0, n), some.Inside(0, 0, n), some.Inside(0, n, 0), some.Ring(n)), "false false [] false false false")
@@ -73,6 +75,7 @@ func TestP1301None(t *testing.T) {
 }
 
 func TestP1302Chance(t *testing.T) {
+	t.Parallel()
 	for _, m := range someModules(300) {
 		w, _ := alias.Of(m)
 		s := pointsAgain(m)
@@ -116,6 +119,7 @@ func TestP1302Chance(t *testing.T) {
 }
 
 func TestP1303Runs(t *testing.T) {
+	t.Parallel()
 	pairs := 0
 	for seed, m := range someModules(300) {
 		w, _ := alias.Of(m)

@@ -81,6 +81,7 @@ func totalsAgain(w translate.Work) audit.Totals {
 }
 
 func TestP3201Count(t *testing.T) {
+	t.Parallel()
 	w, _ := translate.Do("int main() { return 7; }")
 	is(t, "the example", fmt.Sprintf("%+v", audit.Count(w)), "{Funcs:1 Vars:1 Instrs:2 Blocks:1 Loops:0 Groups:1 Sites:0 Clauses:0 Own:0 Mut:0 Share:0 Moves:0 Lends:0 Loans:0}")
 	is(t, "nothing", audit.Count(translate.Work{}), audit.Totals{})
@@ -113,6 +114,7 @@ func sourceWork(t *testing.T) translate.Work {
 }
 
 func TestP3202Find(t *testing.T) {
+	t.Parallel()
 	find := func(w translate.Work) string { return strings.Join(audit.Find(w), " ") }
 	is(t, "nothing is found", find(sourceWork(t)), "")
 	is(t, "of nothing", find(translate.Work{}), "lower target")
@@ -140,6 +142,7 @@ func TestP3202Find(t *testing.T) {
 }
 
 func TestP3202Chance(t *testing.T) {
+	t.Parallel()
 	found := map[string]int{}
 	modules := lentModules(700)
 	for _, m := range someModules(700) {
@@ -182,6 +185,7 @@ func TestP3202Chance(t *testing.T) {
 }
 
 func TestP3203Why(t *testing.T) {
+	t.Parallel()
 	why, is1 := audit.Why(api.Module{})
 	is(t, "what is not right", fmt.Sprint(why, is1), "[] false")
 	m := lowered(cellHead + "int main() { S * a = new S; S * b = a; free(a); free(b); return 0; }")
@@ -213,6 +217,7 @@ func TestP3203Why(t *testing.T) {
 }
 
 func TestP3204Lines(t *testing.T) {
+	t.Parallel()
 	is(t, "Lines", strings.Join(audit.Lines(sourceWork(t)), "; "), "look(share S) -> int; same(share S 'r) -> share S 'r; main() -> int")
 	is(t, "Lines of nothing", audit.Lines(translate.Work{}), "[]")
 	w := sourceWork(t)
@@ -234,6 +239,7 @@ func TestP3204Lines(t *testing.T) {
 }
 
 func TestP3204Deepest(t *testing.T) {
+	t.Parallel()
 	for seed := range uint64(300) {
 		r := dice(seed)
 		m := api.Module{Funcs: []api.Code{anyCode(r, 12), anyCode(r, 30), {}}}
@@ -253,6 +259,7 @@ func TestP3204Deepest(t *testing.T) {
 }
 
 func TestP3205Laws(t *testing.T) {
+	t.Parallel()
 	translated(t, 1000, func(p api.Prog, w translate.Work) {
 		is(t, show.Prog(p), strings.Join(audit.Find(w), " "), "")
 	})

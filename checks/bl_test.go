@@ -64,6 +64,7 @@ fn main() -> int {
 `
 
 func TestP2001Formed(t *testing.T) {
+	t.Parallel()
 	is(t, "a formed program", bl.Formed(everyBl()), api.OK)
 	is(t, "what is not right", bl.Formed(api.Module{}), api.NoMain)
 	long := strings.Repeat("n", 41)
@@ -142,6 +143,7 @@ func TestP2001Formed(t *testing.T) {
 }
 
 func TestP2001Plain(t *testing.T) {
+	t.Parallel()
 	m := everyBl()
 	got := bl.Plain(m)
 	equal(t, "Plain", got, everyOp())
@@ -152,6 +154,7 @@ func TestP2001Plain(t *testing.T) {
 }
 
 func TestP2002Text(t *testing.T) {
+	t.Parallel()
 	m := everyBl()
 	is(t, "Text", bl.Text(m), everyBlText)
 	one := api.Module{Funcs: []api.Code{{Name: "main", Vars: []api.Var{{}}, Ins: []api.Instr{{Op: api.Num, N: 7}, {Op: api.Ret}}}}}
@@ -168,6 +171,7 @@ func TestP2002Text(t *testing.T) {
 	}
 	is(t, "Head", bl.Head(m, 0), "fn g(share S, int) -> share T from 0 {")
 	is(t, "Head", bl.Head(m, 1), "fn main() -> int {")
+	is(t, "Instr of g", bl.Instr(m, 0, 0)+", "+bl.Instr(m, 0, 1), "take x2 share x0 t, ret share x2")
 	for at := range m.Funcs[1].Ins {
 		is(t, "Instr", fmt.Sprintf("  %d %s", at, bl.Instr(m, 1, at)), lines[19+at])
 	}
@@ -295,6 +299,7 @@ func bare(m api.Module) api.Module {
 }
 
 func TestP2003Texts(t *testing.T) {
+	t.Parallel()
 	others := 0
 	for seed, m := range someModules(400) {
 		r := dice(uint64(seed))

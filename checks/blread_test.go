@@ -12,6 +12,7 @@ import (
 )
 
 func TestP2101Read(t *testing.T) {
+	t.Parallel()
 	m, f := blread.Read(everyBlText)
 	is(t, "fault", f, api.OK)
 	equal(t, "a program with each operation", m, everyBl())
@@ -32,7 +33,7 @@ func TestP2101Read(t *testing.T) {
 		{" -> share T from 0 {", " -> own T from 0 {"}, {" -> share T", "-> share T"}, {"  var share T\n", "  var share\n"}, {"  var share T\n", "  share T\n"}, {"  var share T\n", "  var share T T\n"}, {"  var share T\n", ""},
 		{"  0 take x2 share x0 t\n", "  1 take x2 share x0 t\n"}, {"  0 take x2 share x0 t\n", "  take x2 share x0 t\n"}, {"  0 take x2 share x0 t\n", "  00 take x2 share x0 t\n"}, {"  0 take x2 share x0 t\n", "  0 take x2 x0 t\n"},
 		{"  0 take x2 share x0 t\n", "  0 take x2 share x0 n\n"}, {"  0 take x2 share x0 t\n", "  0 take x2 share x0 q\n"}, {"  0 take x2 share x0 t\n", "  0 take x2 plain x0 t\n"}, {"  0 take x2 share x0 t\n", "  0 take x2 share x1 v\n"},
-		{"  0 take x2 share x0 t\n", "  0 take x2 share x9 t\n"}, {"  1 ret share x2\n", "  1 ret x2\n"}, {"  1 ret share x2\n", "  1 ret share\n"}, {"  1 ret share x2\n", "  1 ret share x2 x2\n"}, {"  1 ret share x2\n", "  1 ret\n"}, {"  1 ret share x2\n", ""},
+		{"  0 take x2 share x0 t\n", "  0 take x2 share x9 t\n"}, {"  0 take x2 share x0 t\n", "  0 take x2 share x3 t\n"}, {"  1 ret share x2\n", "  1 ret x2\n"}, {"  1 ret share x2\n", "  1 ret share\n"}, {"  1 ret share x2\n", "  1 ret share x2 x2\n"}, {"  1 ret share x2\n", "  1 ret\n"}, {"  1 ret share x2\n", ""},
 		{"  0 num x0 7\n", "  0 num x0 07\n"}, {"  0 num x0 7\n", "  0 num x0 +7\n"}, {"  0 num x0 7\n", "  0 num x0\n"}, {"  0 num x0 7\n", "  0 num x0 7 7\n"}, {"  0 num x0 7\n", "  0 num x00 7\n"}, {"  0 num x0 7\n", "  0 num 0 7\n"},
 		{"  0 num x0 7\n", "  0 num x5 7\n"}, {"  0 num x0 7\n", "  0 num x0 9223372036854775808\n"}, {"  0 num x0 7\n", "  0 num x0 -0\n"}, {"  0 num x0 7\n", "  0 nun x0 7\n"}, {"  0 num x0 7\n", "  0 num x0 seven\n"}, {"  0 num x0 7\n", "  0\n"},
 		{"  1 null x2\n", "  1 null x0\n"}, {"  1 null x2\n", "  1 null x2 x2\n"}, {"  1 null x2\n", "  1  null x2\n"}, {"  1 null x2\n", "  1 null  x2\n"}, {"  1 null x2\n", "1 null x2\n"}, {"  1 null x2\n", "\n"}, {"  1 null x2\n", "  }\n"},
@@ -59,6 +60,7 @@ func TestP2101Read(t *testing.T) {
 }
 
 func TestP2101Size(t *testing.T) {
+	t.Parallel()
 	_, f := blread.Read(strings.Repeat("x", api.MaxText+1))
 	is(t, "too many bytes", f, api.TooLarge)
 	_, f = blread.Read(strings.Repeat("x", api.MaxText))
@@ -70,6 +72,7 @@ func TestP2101Size(t *testing.T) {
 }
 
 func TestP2102Words(t *testing.T) {
+	t.Parallel()
 	for s, want := range map[string]string{"": "[]", " ": "[]", "a": `["a"]`, "  a  b ": `["a" "b"]`, "a\tb c\n": `["a\tb" "c\n"]`, "x0 -> {": `["x0" "->" "{"]`} {
 		is(t, fmt.Sprintf("Words %q", s), fmt.Sprintf("%q", blread.Words(s)), want)
 	}
@@ -95,6 +98,7 @@ func TestP2102Words(t *testing.T) {
 }
 
 func TestP2103Again(t *testing.T) {
+	t.Parallel()
 	odd := 0
 	for seed, m := range someModules(500) {
 		r := dice(uint64(seed))

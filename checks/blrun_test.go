@@ -205,6 +205,7 @@ func blMain(more string, lines ...string) api.Module {
 }
 
 func TestP2601Steps(t *testing.T) {
+	t.Parallel()
 	m := blMain("", "new x1 S", "free x1", "free x1", "num x0 7", "ret x0")
 	is(t, "the example", outcome(blrun.Run(m, nil, nil, 99)), `5 0 "" 3 0`)
 	x, f := blrun.New(m, nil, nil)
@@ -235,6 +236,7 @@ func TestP2601Steps(t *testing.T) {
 }
 
 func TestP2601Ops(t *testing.T) {
+	t.Parallel()
 	const f = "fn f(own S, share S) -> own S {\n  var int\n  0 put x2\n  1 ret own x0\n}\nfn g(own S, share S) -> share S from 1 {\n  0 ret share x1\n}\nfn h(own S, own S) -> int {\n  var int\n  0 num x2 65\n  1 put x2\n  2 ret x2\n}\n"
 	for _, c := range []struct {
 		what  string
@@ -289,12 +291,14 @@ func TestP2601Ops(t *testing.T) {
 }
 
 func TestP2601Fails(t *testing.T) {
+	t.Parallel()
 	m := blMain("", "new x1 S", "new x2 S", "isnull x0 == x1", "put x0", "isnull x0 == x2", "put x0", "ret x0")
 	is(t, "the first one fails", outcome(blrun.Run(m, nil, []bool{true}, 99)), `1 0 "\x01\x00" 7 0`)
 	is(t, "the second one fails", outcome(blrun.Run(m, nil, []bool{false, true}, 99)), `1 1 "\x00\x01" 7 0`)
 }
 
 func TestP2601Chance(t *testing.T) {
+	t.Parallel()
 	found := map[int]int{}
 	deep, drops := 0, 0
 	for seed, m := range lentModules(1500) {
@@ -323,6 +327,7 @@ func TestP2601Chance(t *testing.T) {
 }
 
 func TestP2602Accepted(t *testing.T) {
+	t.Parallel()
 	found := map[int]int{}
 	for seed, m := range lentModules(6000) {
 		if !nll.Accept(m) {
@@ -348,6 +353,7 @@ func TestP2602Accepted(t *testing.T) {
 }
 
 func TestP2602Same(t *testing.T) {
+	t.Parallel()
 	// What owns nothing does the same in both languages.
 	same := 0
 	for seed, m := range someModules(400) {

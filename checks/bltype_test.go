@@ -125,6 +125,7 @@ func usesAgain(c api.Code, i api.Instr) []bltype.Use {
 }
 
 func TestP2201Check(t *testing.T) {
+	t.Parallel()
 	is(t, "what is not formed", bltype.Check(api.Module{}), diag(22, api.NoMain, 0, 0))
 	plain := everyOp()
 	is(t, "a pointer without a class", bltype.Check(plain), diag(22, api.Mistyped, 0, 0))
@@ -167,6 +168,7 @@ func TestP2201Check(t *testing.T) {
 }
 
 func TestP2201Chance(t *testing.T) {
+	t.Parallel()
 	found := map[string]int{}
 	for seed, m := range someModules(1500) {
 		r := dice(uint64(seed))
@@ -210,6 +212,7 @@ func mostlyOwned(r *rand.Rand, m api.Module) api.Module {
 }
 
 func TestP2202Fits(t *testing.T) {
+	t.Parallel()
 	for _, mode := range []int{-1, 0, 1, 2, 3, 4, math.MinInt, math.MaxInt} {
 		for _, class := range []int{-1, 0, 1, 2, 3, 4, math.MinInt, math.MaxInt} {
 			is(t, fmt.Sprint("Fits ", mode, class), bltype.Fits(mode, class), fitsAgain(mode, class))
@@ -219,6 +222,7 @@ func TestP2202Fits(t *testing.T) {
 }
 
 func TestP2202Uses(t *testing.T) {
+	t.Parallel()
 	m := everyBl()
 	want := map[int]string{7: "[{1 1}]", 8: "[{1 2}]", 9: "[{1 2}]", 10: "[{1 2}]", 11: "[{1 2} {2 3}]", 12: "[{2 1}]", 13: "[{1 1}]", 16: "[{1 3}]"}
 	for at, i := range m.Funcs[1].Ins {
@@ -252,6 +256,7 @@ func TestP2202Uses(t *testing.T) {
 }
 
 func TestP2203Laws(t *testing.T) {
+	t.Parallel()
 	checked := 0
 	for seed, m := range someModules(800) {
 		m = byClasses(mostlyOwned(dice(uint64(seed)), m))

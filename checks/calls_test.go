@@ -39,6 +39,7 @@ func chanceCalls(r *rand.Rand) [][]int {
 }
 
 func TestP1101Example(t *testing.T) {
+	t.Parallel()
 	g := calls.Of(calling([]int{0}, []int{0}))
 	is(t, "groups", g.Groups(), "[[0] [1]]")
 	g = calls.Of(calling([]int{1, 1, 0}, []int{2, 1, 2}, nil, []int{2, -1, 9, 2}))
@@ -50,6 +51,7 @@ func TestP1101Example(t *testing.T) {
 }
 
 func TestP1102Groups(t *testing.T) {
+	t.Parallel()
 	g := calls.Of(calling([]int{1}, []int{2, 3}, []int{0}, nil, []int{5}, []int{4}, []int{6}))
 	is(t, "groups", g.Groups(), "[[3] [0 1 2] [4 5] [6]]")
 	is(t, "Up", slices.Collect(g.Up()), "[3 0 1 2 4 5 6]")
@@ -66,6 +68,7 @@ func TestP1102Groups(t *testing.T) {
 }
 
 func TestP1102None(t *testing.T) {
+	t.Parallel()
 	var none *calls.Graph
 	some := calls.Of(calling([]int{0}))
 	empty := calls.Of(api.Module{})
@@ -80,6 +83,7 @@ func TestP1102None(t *testing.T) {
 }
 
 func TestP1102Chance(t *testing.T) {
+	t.Parallel()
 	for seed := range uint64(1500) {
 		l := chanceCalls(dice(seed))
 		n := len(l)

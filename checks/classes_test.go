@@ -78,6 +78,7 @@ func classed(m api.Module, model []bool) api.Module {
 }
 
 func TestP1801Decode(t *testing.T) {
+	t.Parallel()
 	m := lowered("struct S { int v; S * n; }; S * f(int a, S * s) { return s; } int main() { S * a = new S; free(a); return 0; }")
 	_, f := classes.Decode(api.Module{}, nil)
 	is(t, "what is not right", f, api.NoMain)
@@ -105,6 +106,7 @@ func TestP1801Decode(t *testing.T) {
 }
 
 func TestP1802Infer(t *testing.T) {
+	t.Parallel()
 	for _, c := range []struct{ src, want string }{
 		{"S * a = new S; free(a); return 0;", "own"},
 		{"S * a = new S; return a->v;", "own"},
@@ -131,6 +133,7 @@ func TestP1802Infer(t *testing.T) {
 }
 
 func TestP1802Unsure(t *testing.T) {
+	t.Parallel()
 	const head = "struct S { int v; S * n; };\nint eat(S * s) { free(s); return 1; }\n"
 	for _, c := range []struct {
 		src  string
@@ -164,6 +167,7 @@ func firstUnsure(m api.Module, w *wantsAgain) api.Diag {
 }
 
 func TestP1802Chance(t *testing.T) {
+	t.Parallel()
 	sure, unsure, small := 0, 0, 0
 	for _, m := range someModules(700) {
 		w := wanted(m)
@@ -191,6 +195,7 @@ func TestP1802Chance(t *testing.T) {
 }
 
 func TestP1802Many(t *testing.T) {
+	t.Parallel()
 	// Functions of 299 pointers and a number each; main has as many more as are asked.
 	many := func(more int) api.Module {
 		m := api.Module{Structs: []api.Struct{{Name: "S"}}}
@@ -234,6 +239,7 @@ func TestP1802Many(t *testing.T) {
 }
 
 func TestP1803Words(t *testing.T) {
+	t.Parallel()
 	is(t, "Word", fmt.Sprintf("%q", []string{classes.Word(0), classes.Word(1), classes.Word(2), classes.Word(3), classes.Word(4), classes.Word(-1), classes.Word(math.MaxInt), classes.Word(math.MinInt)}), `["plain" "own" "mut" "share" "" "" "" ""]`)
 	for w, want := range map[string]string{"plain": "0 true", "own": "1 true", "mut": "2 true", "share": "3 true", "": "0 false", "Own": "0 false", "own ": "0 false", "int": "0 false"} {
 		n, is1 := classes.Class(w)
@@ -264,6 +270,7 @@ func TestP1803Words(t *testing.T) {
 }
 
 func TestP1804Laws(t *testing.T) {
+	t.Parallel()
 	for _, m := range someModules(400) {
 		got, d := classes.Infer(m)
 		if d != (api.Diag{}) {

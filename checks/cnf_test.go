@@ -78,6 +78,7 @@ func modelsAgain(f cnf.Formula) [][]bool {
 }
 
 func TestP1401Right(t *testing.T) {
+	t.Parallel()
 	for _, c := range []struct {
 		f    cnf.Formula
 		want bool
@@ -93,6 +94,7 @@ func TestP1401Right(t *testing.T) {
 }
 
 func TestP1401Eval(t *testing.T) {
+	t.Parallel()
 	f := cnf.Formula{N: 2, L: [][]int{{1, 2}, {-1}}}
 	is(t, "Eval", fmt.Sprint(cnf.Eval(f, []bool{false, true}), cnf.Eval(f, []bool{true, true}), cnf.Eval(f, []bool{false, false})), "true false false")
 	is(t, "another length", fmt.Sprint(cnf.Eval(f, []bool{false}), cnf.Eval(f, []bool{false, true, true}), cnf.Eval(f, nil)), "false false false")
@@ -108,6 +110,7 @@ func TestP1401Eval(t *testing.T) {
 }
 
 func TestP1401Given(t *testing.T) {
+	t.Parallel()
 	f := cnf.Formula{N: 3, L: [][]int{{1, 2}, {-1, 3, -1}, {2, -3}, {-1}, {1, -1}, {}}}
 	equal(t, "given 1", cnf.Given(f, 1), cnf.Formula{N: 3, L: [][]int{{3}, {2, -3}, {}, {}}})
 	equal(t, "given -1", cnf.Given(f, -1), cnf.Formula{N: 3, L: [][]int{{2}, {2, -3}, {}}})
@@ -144,6 +147,7 @@ func bySize(c []int) []int {
 }
 
 func TestP1402Norm(t *testing.T) {
+	t.Parallel()
 	for _, c := range []struct {
 		in   []int
 		want string
@@ -172,6 +176,7 @@ func TestP1402Norm(t *testing.T) {
 }
 
 func TestP1402Resolve(t *testing.T) {
+	t.Parallel()
 	for _, c := range []struct {
 		a, b []int
 		v    int
@@ -219,6 +224,7 @@ func TestP1402Resolve(t *testing.T) {
 }
 
 func TestP1403Text(t *testing.T) {
+	t.Parallel()
 	f := cnf.Formula{N: 3, L: [][]int{{1, -2}, {}, {3, 3}}}
 	const text = "p cnf 3 3\n1 -2 0\n0\n3 3 0\n"
 	is(t, "Text", cnf.Text(f), text)
@@ -257,6 +263,7 @@ func TestP1403Text(t *testing.T) {
 }
 
 func TestP1404Builder(t *testing.T) {
+	t.Parallel()
 	b := cnf.New()
 	equal(t, "nothing yet", b.Formula(), cnf.Formula{})
 	b.Clause(1)
@@ -302,6 +309,7 @@ func TestP1404Builder(t *testing.T) {
 }
 
 func TestP1405Laws(t *testing.T) {
+	t.Parallel()
 	for seed := range uint64(1000) {
 		f := anyFormula(dice(seed), 4, 5, true)
 		for _, m := range everyModel(f.N) {

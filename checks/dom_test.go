@@ -45,6 +45,7 @@ func dominators(c api.Code) [][]int {
 }
 
 func TestP901Straight(t *testing.T) {
+	t.Parallel()
 	tree := dom.Of(api.Code{Ins: []api.Instr{{Op: api.Num}, {Op: api.Num}, {Op: api.Num}, {Op: api.Ret}, {Op: api.Ret}}})
 	is(t, "Over", fmt.Sprint(tree.Over(0), tree.Over(1), tree.Over(2), tree.Over(3), tree.Over(4)), "-1 0 1 2 -1")
 	is(t, "Path", fmt.Sprint(tree.Path(0), tree.Path(3), tree.Path(4)), "[0] [3 2 1 0] []")
@@ -54,6 +55,7 @@ func TestP901Straight(t *testing.T) {
 }
 
 func TestP901None(t *testing.T) {
+	t.Parallel()
 	var none *dom.Tree
 	some := dom.Of(api.Code{Ins: []api.Instr{{Op: api.Jump}}})
 	for _, at := range []int{-1, 0, 1, math.MinInt, math.MaxInt} {
@@ -68,6 +70,7 @@ func TestP901None(t *testing.T) {
 }
 
 func TestP901Chance(t *testing.T) {
+	t.Parallel()
 	for _, c := range someCodes(800) {
 		tree := dom.Of(c)
 		doms := dominators(c)
@@ -155,6 +158,7 @@ func naturalAgain(c api.Code, doms [][]int, head int) []int {
 }
 
 func TestP902Natural(t *testing.T) {
+	t.Parallel()
 	m := lowered("int main() { int i = 9; while (i) { if (i < 5) { i = i - 1; continue; } while (i > 7) { i = i - 2; } } return 0; }")
 	c := m.Funcs[0]
 	tree := dom.Of(c)
@@ -189,6 +193,7 @@ func TestP902Natural(t *testing.T) {
 }
 
 func TestP903Laws(t *testing.T) {
+	t.Parallel()
 	for _, c := range someCodes(300) {
 		tree := dom.Of(c)
 		reach := without(c, -1)

@@ -123,6 +123,7 @@ func someCodes(n int) []api.Code {
 }
 
 func TestP801Reach(t *testing.T) {
+	t.Parallel()
 	for _, c := range someCodes(2000) {
 		equal(t, fmt.Sprint("Reach ", c.Ins), flow.Reach(c), reachAgain(c))
 		equal(t, fmt.Sprint("Behind ", c.Ins), flow.Behind(c), behindAgain(c))
@@ -137,6 +138,7 @@ func TestP801Reach(t *testing.T) {
 }
 
 func TestP802Order(t *testing.T) {
+	t.Parallel()
 	straight := api.Code{Ins: []api.Instr{{Op: api.Num}, {Op: api.Num}, {Op: api.Num}, {Op: api.Ret}}}
 	is(t, "straight", flow.Order(straight), "[0 1 2 3]")
 	diamond := api.Code{Ins: []api.Instr{{Op: api.Branch, To: 1, Else: 3}, {Op: api.Num}, {Op: api.Jump, To: 4}, {Op: api.Num}, {Op: api.Ret}}}
@@ -209,6 +211,7 @@ func blocksAgain(c api.Code) [][2]int {
 }
 
 func TestP803Loops(t *testing.T) {
+	t.Parallel()
 	must(t, "nothing", len(flow.Loops(api.Code{})) == 0 && len(flow.Blocks(api.Code{})) == 0)
 	straight := api.Code{Ins: []api.Instr{{Op: api.Num}, {Op: api.Num}, {Op: api.Ret}}}
 	is(t, "straight", fmt.Sprint(flow.Loops(straight), flow.Blocks(straight)), "[] [[0 2]]")
@@ -225,6 +228,7 @@ func TestP803Loops(t *testing.T) {
 }
 
 func TestP804Forwards(t *testing.T) {
+	t.Parallel()
 	for _, c := range someCodes(1000) {
 		order, loops := flow.Order(c), flow.Loops(c)
 		for n, a := range order {

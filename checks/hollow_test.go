@@ -113,6 +113,7 @@ func wrongAgain(c api.Code) []int {
 }
 
 func TestP2801Example(t *testing.T) {
+	t.Parallel()
 	const f = "fn f(own S) -> int {\n  var int\n  0 num x1 0\n  1 ret x1\n}\nfn g(share S) -> int {\n  var int\n  0 num x1 0\n  1 ret x1\n}\nfn h(mut S) -> int {\n  var int\n  var own S\n  0 take x2 own x0 n\n  1 num x1 0\n  2 ret x1\n}\nfn k(own S) -> own S {\n  var own S\n  0 take x1 own x0 n\n  1 ret own x0\n}\nfn l(own S) -> own S {\n  var own S\n  0 take x1 own x0 n\n  1 ret own x1\n}\n"
 	for _, c := range []struct {
 		what  string
@@ -164,6 +165,7 @@ func TestP2801Example(t *testing.T) {
 }
 
 func TestP2801None(t *testing.T) {
+	t.Parallel()
 	m := everyBl()
 	for _, n := range []int{-1, 2, 18, math.MinInt, math.MaxInt} {
 		is(t, "what is not there", fmt.Sprint(hollow.Holes(m, n, 0), hollow.Holes(m, 0, n), hollow.Wrong(m, n)), "[] [] []")
@@ -172,6 +174,7 @@ func TestP2801None(t *testing.T) {
 }
 
 func TestP2801Chance(t *testing.T) {
+	t.Parallel()
 	found := map[string]int{}
 	for _, m := range lentModules(1500) {
 		want := api.Diag{}
@@ -196,6 +199,7 @@ func TestP2801Chance(t *testing.T) {
 }
 
 func TestP2802Laws(t *testing.T) {
+	t.Parallel()
 	// What is accepted, and has no hole that is read, does as a program of the first language what it does as one of the second.
 	found := map[int]int{}
 	for seed := range uint64(12000) {

@@ -63,6 +63,7 @@ func at(m api.Module, op int) *api.Instr {
 }
 
 func TestP501Right(t *testing.T) {
+	t.Parallel()
 	is(t, "a module with each operation", ir.Right(everyOp()), api.OK)
 	one := api.Module{Funcs: []api.Code{{Name: "main", Vars: []api.Var{{}}, Ins: []api.Instr{{Op: api.Num, N: 7}, {Op: api.Ret}}}}}
 	is(t, "the example", ir.Right(one), api.OK)
@@ -90,6 +91,11 @@ func TestP501Right(t *testing.T) {
 		{"two structs", api.Twice, func(m *api.Module, c *api.Code) { m.Structs[0].Name = "T"; c.Vars[0].T = to("U") }},
 		{"two fields", api.Twice, func(m *api.Module, c *api.Code) { m.Structs[0].Fields[2].Name = "v"; c.Vars[0].T = to("U") }},
 		{"two functions", api.Twice, func(m *api.Module, c *api.Code) { m.Funcs[0].Name = "main"; c.Vars[0].T = to("U") }},
+		{"a call of what has no more variables than parameters", api.OK, func(m *api.Module, c *api.Code) {
+			m.Funcs[0].Vars, m.Funcs[0].Ret = m.Funcs[0].Vars[:2], cell("S")
+			m.Funcs[0].Ins = []api.Instr{{Op: api.Ret, A: 0}}
+			at(*m, api.Call).D = 1
+		}},
 		{"one name for a field and a struct", api.OK, func(m *api.Module, c *api.Code) { m.Structs[0].Fields[2].Name = "S" }},
 		{"one field in two structs", api.OK, func(m *api.Module, c *api.Code) { m.Structs[0].Fields[2].Name = "w" }},
 		{"Unknown ahead of TooLarge", api.Unknown, func(m *api.Module, c *api.Code) { m.Funcs[0].Ins = nil; c.Vars[0].T = to("U") }},
@@ -119,6 +125,7 @@ func TestP501Right(t *testing.T) {
 }
 
 func TestP501Many(t *testing.T) {
+	t.Parallel()
 	structs := func(n int) (l []api.Struct) {
 		for k := range n {
 			l = append(l, api.Struct{Name: fmt.Sprint("K", k)})
@@ -285,6 +292,7 @@ func nudgeInstr(r *rand.Rand, i *api.Instr) {
 }
 
 func TestP501Chance(t *testing.T) {
+	t.Parallel()
 	found := map[string]int{}
 	for seed := range uint64(20000) {
 		r := dice(seed)
@@ -314,6 +322,7 @@ func TestP501Chance(t *testing.T) {
 }
 
 func TestP502Reads(t *testing.T) {
+	t.Parallel()
 	i := api.Instr{D: 1, A: 2, B: 3, F: 4, Args: []int{5, 6, 5}, To: 7, Else: 8}
 	for _, c := range []struct {
 		op     int
@@ -352,6 +361,7 @@ func TestP502Reads(t *testing.T) {
 }
 
 func TestP502Edges(t *testing.T) {
+	t.Parallel()
 	m := everyOp()
 	all := "0>1 1>2 2>3 3>4 4>5 5>6 6>7 7>8 8>9 9>10 10>11 11>12 12>13 13>14 14>15 14>16 15>0 16>17"
 	var got []string
@@ -378,6 +388,7 @@ func TestP502Edges(t *testing.T) {
 }
 
 func TestP503Names(t *testing.T) {
+	t.Parallel()
 	m := everyOp()
 	m.Structs = append(m.Structs, api.Struct{Name: "S"})
 	m.Funcs = append(m.Funcs, api.Code{Name: "g"})
@@ -386,6 +397,7 @@ func TestP503Names(t *testing.T) {
 }
 
 func TestP503Same(t *testing.T) {
+	t.Parallel()
 	a, b := everyOp(), everyOp()
 	place := api.Pos{Line: 4, Col: 5}
 	b.Structs[0].At, b.Structs[1].Fields[0].At, b.Funcs[1].Ins[3].At = place, place, place

@@ -52,6 +52,7 @@ func writesAgain(i api.Instr) (int, bool) {
 }
 
 func TestP1001Example(t *testing.T) {
+	t.Parallel()
 	c := api.Code{Vars: make([]api.Var, 3), Ins: []api.Instr{{Op: api.Num, D: 0}, {Op: api.Num, D: 1}, {Op: api.Bin, D: 2, A: 0, B: 1, Sign: "+"}, {Op: api.Ret, A: 2}}}
 	table := live.Of(c)
 	is(t, "behind the second one", slices.Collect(table.Vars(1)), "[0 1]")
@@ -61,6 +62,7 @@ func TestP1001Example(t *testing.T) {
 }
 
 func TestP1001None(t *testing.T) {
+	t.Parallel()
 	var none *live.Table
 	some := live.Of(api.Code{Vars: make([]api.Var, 1), Ins: []api.Instr{{Op: api.Ret}}})
 	for _, n := range []int{-1, 1, 64, math.MinInt, math.MaxInt} {
@@ -74,6 +76,7 @@ func TestP1001None(t *testing.T) {
 }
 
 func TestP1001Chance(t *testing.T) {
+	t.Parallel()
 	for _, c := range someCodes(800) {
 		if len(c.Ins) > 60 {
 			continue
@@ -117,6 +120,7 @@ func TestP1001Chance(t *testing.T) {
 }
 
 func TestP1002Wide(t *testing.T) {
+	t.Parallel()
 	// Variables of more than one word.
 	c := api.Code{Vars: make([]api.Var, 300)}
 	for v := range 300 {
@@ -137,6 +141,7 @@ func TestP1002Wide(t *testing.T) {
 }
 
 func TestP1003Laws(t *testing.T) {
+	t.Parallel()
 	for _, c := range someCodes(300) {
 		table := live.Of(c)
 		for at, i := range c.Ins {

@@ -205,6 +205,7 @@ func shuffledVars(r *rand.Rand, m api.Module) api.Module {
 }
 
 func TestP2401Example(t *testing.T) {
+	t.Parallel()
 	own, share, mut := api.Var{T: to("S"), Class: 1}, api.Var{T: to("S"), Class: 3}, api.Var{T: to("S"), Class: 2}
 	m := api.Module{Structs: []api.Struct{{Name: "S", Fields: []api.Field{{Name: "n", T: to("S")}}}}, Funcs: []api.Code{
 		{Name: "f", Params: 2, Vars: []api.Var{share, mut}, Ret: share, From: []int{0}, Ins: []api.Instr{{Op: api.Ret, A: 0, Mode: []int{3}}}},
@@ -235,6 +236,7 @@ func TestP2401Example(t *testing.T) {
 }
 
 func TestP2401None(t *testing.T) {
+	t.Parallel()
 	var none *loans.Table
 	m := everyBl()
 	some := loans.Of(m, 1)
@@ -250,6 +252,7 @@ func TestP2401None(t *testing.T) {
 }
 
 func TestP2401Chance(t *testing.T) {
+	t.Parallel()
 	held, unreached := 0, 0
 	for _, m := range lentModules(900) {
 		for f, c := range m.Funcs {
@@ -305,6 +308,7 @@ func TestP2401Chance(t *testing.T) {
 }
 
 func TestP2402Laws(t *testing.T) {
+	t.Parallel()
 	for _, m := range lentModules(300) {
 		for f, c := range m.Funcs {
 			table := loans.Of(m, f)

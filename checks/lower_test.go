@@ -99,6 +99,7 @@ func lowered(src string) api.Module {
 }
 
 func TestP601Main(t *testing.T) {
+	t.Parallel()
 	const head = "struct S { int v; S * n; T * t; }; struct T { T * t; }; int f(int a, S * s) { return a; } S * g(T * t) { return null; } int main() { "
 	for _, c := range []struct{ src, want string }{
 		{"return 1 + 2;", "int int int | num x0 1 | num x1 2 | bin x2 x0 + x1 | ret x2"},
@@ -139,6 +140,7 @@ func TestP601Main(t *testing.T) {
 }
 
 func TestP601Module(t *testing.T) {
+	t.Parallel()
 	src := `struct T { S * s; };
 struct S { int v; };
 S * h(int a, S * b, T * c) { S * d = b; return c->s; }
@@ -159,6 +161,7 @@ int main() { return 0; }`
 }
 
 func TestP601Places(t *testing.T) {
+	t.Parallel()
 	src := `struct S { int v; S * n; };
 int f(S * a, int b) { return b; }
 int main() {
@@ -186,6 +189,7 @@ int main() {
 }
 
 func TestP601Wrong(t *testing.T) {
+	t.Parallel()
 	check := func(src string, want api.Diag) {
 		t.Helper()
 		m, d := lower.Text(src)
@@ -208,6 +212,7 @@ func TestP601Wrong(t *testing.T) {
 }
 
 func TestP601Limits(t *testing.T) {
+	t.Parallel()
 	vars := func(n int) string {
 		return "int main() { int a = 0;" + strings.Repeat(" a = 1 + a;", n-1) + " return a; }"
 	}
@@ -422,6 +427,7 @@ func loweredAgain(p api.Prog, f api.Func) string {
 }
 
 func TestP602Chance(t *testing.T) {
+	t.Parallel()
 	for seed := range uint64(1500) {
 		p := sanely(seed)
 		m, d := lower.Lower(p)
@@ -445,6 +451,7 @@ func TestP602Chance(t *testing.T) {
 }
 
 func TestP601Other(t *testing.T) {
+	t.Parallel()
 	// Of what no parser makes nothing is promised but an end.
 	for k := -1; k < 14; k++ {
 		e := api.Expr{Kind: k, Name: "S", Op: "?", Kids: []api.Expr{{Kind: k}, {Kind: 6}}}

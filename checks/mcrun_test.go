@@ -19,6 +19,7 @@ func outcome(o api.Outcome) string {
 }
 
 func TestP701Steps(t *testing.T) {
+	t.Parallel()
 	m := lowered("int main() { put(65); return 7; }")
 	x, f := mcrun.New(m, nil, nil)
 	is(t, "New", f, api.OK)
@@ -41,6 +42,7 @@ func TestP701Steps(t *testing.T) {
 }
 
 func TestP701Ops(t *testing.T) {
+	t.Parallel()
 	const head = "struct S { int v; S * n; }; int id(int a) { return a; } S * same(S * s) { return s; } int down(int n) { if (n == 0) { return 0; } return 1 + down(n - 1); } "
 	for _, c := range []struct{ body, in, want string }{
 		{"return 7;", "", `1 7 "" 2 0`},
@@ -90,6 +92,7 @@ func TestP701Ops(t *testing.T) {
 }
 
 func TestP701Fails(t *testing.T) {
+	t.Parallel()
 	m := lowered("struct S { int v; }; int main() { S * a = new S; S * b = new S; S * c = new S; put(65 + (a == null)); put(65 + (b == null)); put(65 + (c == null)); return 0; }")
 	for _, c := range []struct {
 		fails []bool
@@ -103,6 +106,7 @@ func TestP701Fails(t *testing.T) {
 }
 
 func TestP701Odd(t *testing.T) {
+	t.Parallel()
 	// What no lowering makes: numbers beyond 32 bits, variables that were never written.
 	one := func(l ...api.Instr) api.Module {
 		return api.Module{
@@ -127,6 +131,7 @@ func TestP701Odd(t *testing.T) {
 }
 
 func TestP702Run(t *testing.T) {
+	t.Parallel()
 	m := lowered("int main() { put(65); put(66); while (1) { put(67); } return 7; }")
 	for fuel, want := range map[int]string{
 		math.MinInt: `4 0 "" 0 0`, -1: `4 0 "" 0 0`, 0: `4 0 "" 0 0`, 1: `4 0 "" 1 0`, 2: `4 0 "A" 2 0`, 4: `4 0 "AB" 4 0`, 14: `4 0 "ABCC" 14 0`,
@@ -143,6 +148,7 @@ func TestP702Run(t *testing.T) {
 }
 
 func TestP702Sign(t *testing.T) {
+	t.Parallel()
 	edges := []int64{0, 1, -1, 2, -2, 3, 7, -7, 255, 65536, 1<<31 - 1, -1 << 31, 1<<31 - 2, -1<<31 + 1, 46341}
 	for _, op := range strings.Fields("+ - * / % < <= > >= == !=") {
 		for _, a := range edges {
@@ -183,6 +189,7 @@ func tries(seed uint64) ([]byte, []bool) {
 }
 
 func TestP703Chance(t *testing.T) {
+	t.Parallel()
 	found := map[int]int{}
 	for seed := range uint64(1500) {
 		p := sanely(seed)

@@ -76,6 +76,7 @@ func movedAgain(c api.Code, i api.Instr, masks map[uint64]bool) bool {
 }
 
 func TestP2301Example(t *testing.T) {
+	t.Parallel()
 	own := api.Var{T: to("S"), Class: api.Own}
 	m := api.Module{Structs: []api.Struct{{Name: "S", Fields: []api.Field{{Name: "n", T: to("S")}}}}, Funcs: []api.Code{{Name: "main", Vars: []api.Var{own, {}, own}, Ins: []api.Instr{
 		{Op: api.New, D: 0}, {Op: api.Free, A: 0}, {Op: api.Free, A: 0}, {Op: api.Num, D: 1}, {Op: api.Ret, A: 1},
@@ -99,6 +100,9 @@ func TestP2301Example(t *testing.T) {
 	is(t, "not reached", moves.Check(m), api.Diag{})
 	m.Funcs[0].Ins = []api.Instr{{Op: api.Num, D: 1}, {Op: api.New, D: 0}, {Op: api.Free, A: 0}, {Op: api.Branch, A: 1, To: 2, Else: 4}, {Op: api.Ret, A: 1}}
 	is(t, "in a loop", moves.Check(m), diag(23, api.Moved, 1, 3))
+	m.Funcs[0].Ins = []api.Instr{{Op: api.New, D: 0}, {Op: api.Num, D: 1}, {Op: api.Num, D: 1}, {Op: api.IsNull, D: 1, A: 0, Sign: "=="}, {Op: api.Branch, A: 1, To: 5, Else: 7}, {Op: api.Free, A: 0}, {Op: api.Jump, To: 4}, {Op: api.Branch, A: 1, To: 2, Else: 8}, {Op: api.Ret, A: 1}}
+	is(t, "in a loop within a loop", moves.Check(m), diag(23, api.Moved, 1, 4))
+	m.Funcs[0].Ins = []api.Instr{{Op: api.Num, D: 1}, {Op: api.New, D: 0}, {Op: api.Free, A: 0}, {Op: api.Branch, A: 1, To: 2, Else: 4}, {Op: api.Ret, A: 1}}
 	m.Funcs[0].Vars[0].Class = api.Share
 	is(t, "bltype first", moves.Check(m), diag(22, api.Mistyped, 1, 2))
 	m.Funcs[0].Vars[0].Class = 0
@@ -107,6 +111,7 @@ func TestP2301Example(t *testing.T) {
 }
 
 func TestP2301None(t *testing.T) {
+	t.Parallel()
 	var none *moves.Table
 	m := everyBl()
 	some := moves.Of(m, 1)
@@ -121,6 +126,7 @@ func TestP2301None(t *testing.T) {
 }
 
 func TestP2301Chance(t *testing.T) {
+	t.Parallel()
 	gone, wrong, right := 0, 0, 0
 	for seed, m := range someModules(1200) {
 		r := dice(uint64(seed))
@@ -168,6 +174,7 @@ func TestP2301Chance(t *testing.T) {
 }
 
 func TestP2303Ways(t *testing.T) {
+	t.Parallel()
 	checked := 0
 	for seed, m := range someModules(800) {
 		r := dice(uint64(seed))

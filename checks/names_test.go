@@ -21,6 +21,7 @@ func prog(src string) api.Prog {
 }
 
 func TestP401(t *testing.T) {
+	t.Parallel()
 	p := prog("struct S { int a; T * b; int a; }; struct T { S * a; }; struct S { int c; }; int f() { return 1; } S * g() { return null; } int f(int a) { return 2; }")
 	is(t, "Struct", fmt.Sprint(names.Struct(p, "S"), names.Struct(p, "T"), names.Struct(p, "U"), names.Struct(p, ""), names.Struct(api.Prog{}, "S")), "0 1 -1 -1 -1")
 	is(t, "Func", fmt.Sprint(names.Func(p, "f"), names.Func(p, "g"), names.Func(p, "main"), names.Func(p, "")), "0 1 -1 -1")
@@ -34,6 +35,7 @@ func TestP401(t *testing.T) {
 }
 
 func TestP401Fits(t *testing.T) {
+	t.Parallel()
 	null := api.Type{Ptr: true}
 	for _, c := range []struct {
 		want, got api.Type
@@ -47,6 +49,7 @@ func TestP401Fits(t *testing.T) {
 }
 
 func TestP401Ends(t *testing.T) {
+	t.Parallel()
 	for src, want := range map[string]bool{
 		"": false, "return 1;": true, "while (1) { break; }": false, "while (1) { return 1; }": false, "put(1);": false, "put(1); return 1;": true,
 		"if (1) { return 1; }": false, "if (1) { return 1; } else { return 2; }": true, "if (1) { return 1; } else { }": false,
@@ -78,6 +81,7 @@ func checked(t *testing.T, src string) {
 const mainText = "int main() { return 0; } "
 
 func TestP402Heads(t *testing.T) {
+	t.Parallel()
 	checked(t, mainText)
 	checked(t, "struct S { T * a; S * b; int c; }; struct T { int a; }; "+mainText)
 	checkedAt(t, api.Twice, mainText+"struct S { }; struct T { }; |struct S { };")
@@ -107,6 +111,7 @@ func TestP402Heads(t *testing.T) {
 }
 
 func TestP402Many(t *testing.T) {
+	t.Parallel()
 	structs := func(n int) string {
 		s := ""
 		for i := range n {
@@ -122,15 +127,18 @@ func TestP402Many(t *testing.T) {
 		return s
 	}
 	checked(t, structs(30)+mainText)
+	is(t, "30 structs, and what is wrong behind", names.Check(prog(structs(30)+"int main() { return x; }")), diag(4, api.Unknown, 31, 21))
 	is(t, "31 structs", names.Check(prog("struct S0 { U * a; }; "+structs(31)+mainText)), diag(4, api.TooLarge, 30, 1))
 	is(t, "32 structs", names.Check(prog(structs(32)+mainText)), diag(4, api.TooLarge, 31, 1))
 	checked(t, funcs(59)+mainText)
+	is(t, "60 functions, and what is wrong behind", names.Check(prog(funcs(59)+"int main() { return x; }")), diag(4, api.Unknown, 60, 21))
 	is(t, "61 functions", names.Check(prog(funcs(60)+mainText)), diag(4, api.TooLarge, 61, 1))
 	is(t, "62 functions", names.Check(prog(mainText+"int main() { return x; }\n"+funcs(60))), diag(4, api.TooLarge, 60, 1))
 	is(t, "61 functions, and a struct that is wrong", names.Check(prog(funcs(60)+mainText+"\nstruct S { U * a; };")), diag(4, api.Unknown, 62, 16))
 }
 
 func TestP402Statements(t *testing.T) {
+	t.Parallel()
 	in := func(s string) string {
 		return "struct S { int v; S * n; T * o; }; struct T { int v; }; T * g(S * a, int b) { return null; }\nint main() { int i = 1; S * s = new S; T * t = null; " + s + " return 0; }"
 	}
@@ -164,6 +172,7 @@ func TestP402Statements(t *testing.T) {
 }
 
 func TestP402Expressions(t *testing.T) {
+	t.Parallel()
 	in := func(s string) string {
 		return "struct S { int v; S * n; T * o; }; struct T { int v; }; T * g(S * a, int b) { return null; }\nint main() { int i = 1; S * s = new S; T * t = null; i = " + s + "; return 0; }"
 	}
@@ -350,6 +359,7 @@ func namesAgain(p api.Prog) (d api.Diag) {
 }
 
 func TestP402Chance(t *testing.T) {
+	t.Parallel()
 	found := map[api.Fault]int{}
 	for seed := range uint64(4000) {
 		r := dice(seed)
@@ -387,6 +397,7 @@ func TestP402Chance(t *testing.T) {
 }
 
 func TestP402Other(t *testing.T) {
+	t.Parallel()
 	// Of what no parser makes nothing is promised but an end.
 	for k := -1; k < 14; k++ {
 		e := api.Expr{Kind: k, Kids: []api.Expr{{Kind: k}}}

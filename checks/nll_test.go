@@ -86,6 +86,7 @@ func clashesAgain(m api.Module, c api.Code) ([]nll.Clash, []int) {
 }
 
 func TestP2501Example(t *testing.T) {
+	t.Parallel()
 	own, share, mut := api.Var{T: to("S"), Class: 1}, api.Var{T: to("S"), Class: 3}, api.Var{T: to("S"), Class: 2}
 	S := []api.Struct{{Name: "S", Fields: []api.Field{{Name: "n", T: to("S")}, {Name: "v"}}}}
 	f := api.Code{Name: "f", Params: 2, Vars: []api.Var{mut, share}, Ret: share, From: []int{1}, Ins: []api.Instr{{Op: api.Ret, A: 1, Mode: []int{3}}}}
@@ -133,6 +134,7 @@ func TestP2501Example(t *testing.T) {
 }
 
 func TestP2501Short(t *testing.T) {
+	t.Parallel()
 	own, share, mut := api.Var{T: to("S"), Class: 1}, api.Var{T: to("S"), Class: 3}, api.Var{T: to("S"), Class: 2}
 	S := []api.Struct{{Name: "S", Fields: []api.Field{{Name: "n", T: to("S")}, {Name: "v"}}}}
 	main := api.Code{Name: "main", Vars: []api.Var{{}}, Ins: []api.Instr{{Op: api.Num}, {Op: api.Ret}}}
@@ -163,6 +165,7 @@ func TestP2501Short(t *testing.T) {
 }
 
 func TestP2501None(t *testing.T) {
+	t.Parallel()
 	m := everyBl()
 	for _, n := range []int{-1, 2, 64, math.MinInt, math.MaxInt} {
 		is(t, "of no function", fmt.Sprint(nll.Clashes(m, n), nll.Short(m, n)), "[] []")
@@ -171,6 +174,7 @@ func TestP2501None(t *testing.T) {
 }
 
 func TestP2502Chance(t *testing.T) {
+	t.Parallel()
 	found := map[string]int{}
 	for _, m := range lentModules(1500) {
 		want := moves.Check(m)
@@ -208,6 +212,7 @@ func TestP2502Chance(t *testing.T) {
 }
 
 func TestP2503Laws(t *testing.T) {
+	t.Parallel()
 	for _, m := range lentModules(500) {
 		for f, c := range m.Funcs {
 			lent := slices.ContainsFunc(c.Vars, lentAgain)

@@ -99,6 +99,7 @@ func someModules(n int) []api.Module {
 }
 
 func TestP1201Of(t *testing.T) {
+	t.Parallel()
 	s, f := points.Of(api.Module{})
 	is(t, "what is not right", f, api.NoMain)
 	must(t, "nothing", s == nil)
@@ -117,6 +118,7 @@ func TestP1201Of(t *testing.T) {
 }
 
 func TestP1202None(t *testing.T) {
+	t.Parallel()
 	var none *points.Sets
 	is(t, "of nil", fmt.Sprint(none.Sites(), none.Var(0, 0), none.Result(0), none.Field(0, 0), none.Has(0, 0, 0), slices.Collect(none.Each(0, 0))), "[] [] [] [] false []")
 	some, _ := points.Of(lowered("struct S { S * n; }; int main() { S * a = new S; a->n = a; return 0; }"))
@@ -128,6 +130,7 @@ func TestP1202None(t *testing.T) {
 }
 
 func TestP1202Chance(t *testing.T) {
+	t.Parallel()
 	for _, m := range someModules(400) {
 		s, f := points.Of(m)
 		is(t, "fault", f, api.OK)
@@ -157,6 +160,7 @@ func TestP1202Chance(t *testing.T) {
 }
 
 func TestP1203Runs(t *testing.T) {
+	t.Parallel()
 	cells := 0
 	for seed, m := range someModules(500) {
 		s, _ := points.Of(m)

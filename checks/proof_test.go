@@ -29,6 +29,7 @@ func clausesAgain(f cnf.Formula, l []proof.Step) ([][]int, bool) {
 }
 
 func TestP1601Clauses(t *testing.T) {
+	t.Parallel()
 	f := cnf.Formula{N: 3, L: [][]int{{1, 2}, {-1, 3}, {-2}, {-3}}}
 	good := []proof.Step{{A: 0, B: 1, On: 1}, {A: 4, B: 2, On: 2}, {A: 5, B: 3, On: 3}}
 	got, is1 := proof.Clauses(f, good)
@@ -71,6 +72,7 @@ func TestP1601Clauses(t *testing.T) {
 }
 
 func TestP1602Refute(t *testing.T) {
+	t.Parallel()
 	l, is1 := proof.Refute(cnf.Formula{N: 1, L: [][]int{{1}, {-1}}})
 	is(t, "the example", fmt.Sprint(l, is1), "[{0 1 1}] true")
 	l, is1 = proof.Refute(cnf.Formula{N: 1, L: [][]int{{-1}, {1}}})
@@ -194,6 +196,7 @@ func padded(r *rand.Rand, f cnf.Formula, l []proof.Step) []proof.Step {
 }
 
 func TestP1603Core(t *testing.T) {
+	t.Parallel()
 	f := cnf.Formula{N: 3, L: [][]int{{3}, {1}, {2, -1}, {-1}, {-2}}}
 	l := []proof.Step{{A: 1, B: 2, On: 1}, {A: 1, B: 3, On: 1}, {A: 5, B: 4, On: 2}}
 	is(t, "Core", proof.Core(f, l), "[1 3]")
@@ -220,6 +223,7 @@ func TestP1603Core(t *testing.T) {
 }
 
 func TestP1604Laws(t *testing.T) {
+	t.Parallel()
 	for seed := range uint64(800) {
 		f := anyFormula(dice(seed), 5, 14, true)
 		l, is1 := proof.Refute(f)

@@ -96,6 +96,7 @@ func signOf(v api.Var, origin bool) string {
 }
 
 func TestP1901Example(t *testing.T) {
+	t.Parallel()
 	m := lowered("struct S { S * n; }; S * f(S * a, S * b) { return b; } S * g(int i, S * x, S * y) { if (i) { return f(y, x); } return x->n; } int main() { return 0; }")
 	for f := range m.Funcs {
 		for v := range m.Funcs[f].Vars {
@@ -118,6 +119,7 @@ func TestP1901Example(t *testing.T) {
 }
 
 func TestP1901None(t *testing.T) {
+	t.Parallel()
 	var none *regions.Regions
 	equal(t, "Module of nil", none.Module(), api.Module{})
 	is(t, "of nil", fmt.Sprint(none.From(0), none.Var(0, 0), none.Rounds(), none.Sign(0) == ""), "[] [] 0 true")
@@ -126,6 +128,7 @@ func TestP1901None(t *testing.T) {
 		is(t, "of nil", fmt.Sprint(none.From(n), none.Var(n, n), none.Sign(n) == ""), "[] [] true")
 		is(t, "of what is not there", fmt.Sprint(some.From(n), some.Var(n, 0), some.Var(0, n), some.Sign(n) == ""), "[] [] [] true")
 	}
+	is(t, "of what is just not there", fmt.Sprint(some.Var(0, 0), some.Var(0, 1), some.From(2), some.Var(2, 0)), "[] [] [] []")
 	must(t, "Lent", regions.Lent(api.Var{T: to("S"), Class: 2}) && regions.Lent(api.Var{T: to("S"), Class: 3}))
 	for _, v := range []api.Var{{}, {Class: 2}, {Class: 3}, {T: to("S")}, {T: to("S"), Class: 1}, {T: to("S"), Class: 4}, {T: to("S"), Class: -1}} {
 		must(t, fmt.Sprint("not lent ", v), !regions.Lent(v))
@@ -133,6 +136,7 @@ func TestP1901None(t *testing.T) {
 }
 
 func TestP1902Chance(t *testing.T) {
+	t.Parallel()
 	rounds := map[int]int{}
 	for seed, m := range someModules(800) {
 		m = mixed(dice(uint64(seed)), m, true)
@@ -168,6 +172,7 @@ func TestP1902Chance(t *testing.T) {
 }
 
 func TestP1902Rounds(t *testing.T) {
+	t.Parallel()
 	// Each function's result comes from the one behind it: so it takes a round for each.
 	src := "struct S { S * n; }; "
 	for k := range 6 {
@@ -196,6 +201,7 @@ func TestP1902Rounds(t *testing.T) {
 }
 
 func TestP1903Laws(t *testing.T) {
+	t.Parallel()
 	for seed, m := range someModules(300) {
 		m = mixed(dice(uint64(seed)), m, false)
 		r, _ := regions.Of(m)

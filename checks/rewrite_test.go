@@ -13,6 +13,7 @@ import (
 )
 
 func TestP2701Mode(t *testing.T) {
+	t.Parallel()
 	m := everyBl()
 	m.Funcs[1].Vars[3].Class, m.Funcs[0].Ret.Class, m.Funcs[0].Vars[0].Class = api.Own, api.Mut, api.Own
 	// Of main: 9 gives 2, a Mut one; 10 takes into it; 13 calls g; of g: 0 takes into a Share one, 1 answers.
@@ -32,6 +33,7 @@ func TestP2701Mode(t *testing.T) {
 }
 
 func TestP2701Rewrite(t *testing.T) {
+	t.Parallel()
 	_, f := rewrite.Rewrite(api.Module{})
 	is(t, "what is not right", f, api.NoMain)
 	for what, by := range map[string]func(g, main *api.Code){
@@ -71,6 +73,7 @@ func TestP2701Rewrite(t *testing.T) {
 }
 
 func TestP2702Source(t *testing.T) {
+	t.Parallel()
 	m := everyOp()
 	m.Funcs[1].Ins[3].At, m.Funcs[0].Ins[0].At = api.Pos{Line: 40, Col: 41}, api.Pos{Line: 50, Col: 51}
 	for _, c := range []struct{ d, want api.Diag }{
@@ -99,6 +102,7 @@ func TestP2702Source(t *testing.T) {
 }
 
 func TestP2703Moves(t *testing.T) {
+	t.Parallel()
 	moves, lends := rewrite.Moves(everyBl())
 	is(t, "Moves", fmt.Sprint(moves, lends), "1 4")
 	m := api.Module{Funcs: []api.Code{{Ins: []api.Instr{{Op: api.Num, Mode: []int{1, 1, 2, 3, 0, 4, -1}}, {Op: 99, Mode: []int{1, 3, 3}}}}, {Ins: []api.Instr{{Mode: []int{2}}}}}}
@@ -109,6 +113,7 @@ func TestP2703Moves(t *testing.T) {
 }
 
 func TestP2704Laws(t *testing.T) {
+	t.Parallel()
 	for seed, m := range someModules(300) {
 		m = mixed(dice(uint64(seed)), m, false)
 		got, f := rewrite.Rewrite(m)

@@ -253,6 +253,7 @@ func askCode(c api.Code, n []int) {
 }
 
 func TestRule1NoPanic(t *testing.T) {
+	t.Parallel()
 	n := []int{0, 1, 2, 5, -1, math.MaxInt, math.MinInt}
 	modules := lentModules(60)
 	for seed := range uint64(1500) {
@@ -274,6 +275,7 @@ func TestRule1NoPanic(t *testing.T) {
 }
 
 func TestRule1Programs(t *testing.T) {
+	t.Parallel()
 	for seed := range uint64(3000) {
 		r := dice(seed)
 		p := anyProg(r)
@@ -305,6 +307,7 @@ func TestRule1Programs(t *testing.T) {
 }
 
 func TestRule1Formulas(t *testing.T) {
+	t.Parallel()
 	for seed := range uint64(1500) {
 		r := dice(seed)
 		f := cnf.Formula{N: anyInt(r)}
@@ -348,6 +351,7 @@ func cloneLists(l [][]int) [][]int {
 }
 
 func TestRule4SpareRoom(t *testing.T) {
+	t.Parallel()
 	// Lists with room behind them: nothing is written there.
 	r := dice(1)
 	for range 300 {

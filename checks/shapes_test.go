@@ -63,6 +63,7 @@ func inputs() [][]byte {
 }
 
 func TestP3101Kinds(t *testing.T) {
+	t.Parallel()
 	const all = "list reverse tree stack append raise"
 	is(t, "Kinds", strings.Join(shapes.Kinds(), " "), all)
 	shapes.Kinds()[0] = "x"
@@ -83,6 +84,7 @@ func TestP3101Kinds(t *testing.T) {
 }
 
 func TestP3102Expect(t *testing.T) {
+	t.Parallel()
 	out, code, f := shapes.Expect(1, 7, []byte("ab"))
 	is(t, "the example", fmt.Sprintf("%s %d %d", out, code, f), "ab 9 0")
 	for _, c := range [][2]int{{-1, 0}, {6, 0}, {math.MinInt, 0}, {math.MaxInt, 0}, {0, -1}, {0, 100}, {5, math.MaxInt}, {5, math.MinInt}} {
@@ -108,6 +110,7 @@ func TestP3102Expect(t *testing.T) {
 }
 
 func TestP3102Source(t *testing.T) {
+	t.Parallel()
 	for kind, name := range shapes.Each() {
 		for _, n := range []int{0, 1, 7, 42, 99} {
 			s, f := shapes.Source(kind, n)
@@ -129,6 +132,7 @@ func TestP3102Source(t *testing.T) {
 }
 
 func TestP3103Part(t *testing.T) {
+	t.Parallel()
 	for name, head := range map[string]string{"push": "S * push(S * h, int v) {\n", "drop": "int drop(S * p) {\n", "show": "int show(S * p) {\n"} {
 		part := shapes.Part(name)
 		must(t, "from its head on", strings.HasPrefix(part, head))
@@ -156,6 +160,7 @@ func TestP3103Part(t *testing.T) {
 }
 
 func TestP3104Translated(t *testing.T) {
+	t.Parallel()
 	// Also P4: owners are translated.
 	for kind, name := range shapes.Each() {
 		for _, n := range []int{0, 13, 99} {

@@ -2,6 +2,7 @@ package checks
 
 import (
 	"fmt"
+	"math"
 	"strings"
 	"testing"
 
@@ -20,6 +21,7 @@ func exprOf(src string) api.Expr {
 }
 
 func TestP301Expr(t *testing.T) {
+	t.Parallel()
 	for src, want := range map[string]string{
 		"(x - 1) - (y - 2)":           "x - 1 - (y - 2)",
 		"(x - 1) - (y * 2)":           "x - 1 - y * 2",
@@ -76,6 +78,7 @@ func TestP301Expr(t *testing.T) {
 }
 
 func TestP302Stmt(t *testing.T) {
+	t.Parallel()
 	src := `int f() { int x=1; S*y=null; x=y->a; y->b->c=x+1; if(x){put(x);}else{free(y);while(-x){break;continue;}} if(x){}else{} f(x , y); return x; }`
 	p, d := syntax.Text(src)
 	is(t, "diag", d, api.Diag{})
@@ -97,6 +100,7 @@ func TestP302Stmt(t *testing.T) {
 }
 
 func TestP303Prog(t *testing.T) {
+	t.Parallel()
 	src := "int main(){return 7;} struct T{}; S*f(int a,S*b){return b;} struct S{int v;S*n;};"
 	p, _ := syntax.Text(src)
 	want := `struct T {
@@ -212,6 +216,7 @@ func shownList(l []api.Stmt, pad string) string {
 }
 
 func TestP301Chance(t *testing.T) {
+	t.Parallel()
 	for seed := range uint64(3000) {
 		e := wild{dice(seed)}.expr(5)
 		is(t, "shown", show.Expr(e), shownExpr(e, 0))
@@ -224,6 +229,7 @@ func TestP301Chance(t *testing.T) {
 }
 
 func TestP304Again(t *testing.T) {
+	t.Parallel()
 	for seed := range uint64(1500) {
 		r := dice(seed)
 		p := wild{r}.prog()
@@ -245,7 +251,10 @@ func TestP304Again(t *testing.T) {
 }
 
 func TestP304Other(t *testing.T) {
-	// Of what no parser makes nothing is promised but an end.
+	t.Parallel()
+	// Of what no parser makes nothing is promised but an end; nor of what is longer than all that is told.
+	show.Stmt(api.Stmt{Kind: 6}, math.MaxInt)
+	show.Stmt(api.Stmt{Kind: 6}, math.MinInt)
 	for k := -1; k < 14; k++ {
 		show.Expr(api.Expr{Kind: k})
 		show.Stmt(api.Stmt{Kind: k}, -3)

@@ -47,6 +47,7 @@ func threes(seed uint64, n, count int) cnf.Formula {
 }
 
 func TestP1501Models(t *testing.T) {
+	t.Parallel()
 	m, is1 := solve.Solve(cnf.Formula{N: 2, L: [][]int{{1, 2}, {-1}}})
 	is(t, "the example", fmt.Sprint(m, is1), "[false true] true")
 	m, is1 = solve.Solve(cnf.Formula{})
@@ -123,6 +124,7 @@ func fixedAgain(f cnf.Formula, lits []int) ([]int, bool) {
 }
 
 func TestP1502Fixed(t *testing.T) {
+	t.Parallel()
 	f := cnf.Formula{N: 5, L: [][]int{{-1, 2}, {-2, -3, 4}, {3, 5}, {-5, -4}}}
 	for _, c := range []struct {
 		lits []int
@@ -163,6 +165,7 @@ func TestP1502Fixed(t *testing.T) {
 }
 
 func TestP1502Pure(t *testing.T) {
+	t.Parallel()
 	is(t, "Pure", solve.Pure(cnf.Formula{N: 5, L: [][]int{{1, -2}, {3, -3}, {-4, 4}, {-2}, {1, 1}}}), "[1 -2]")
 	is(t, "nothing", solve.Pure(cnf.Formula{N: 3}), "[]")
 	for _, f := range oddFormulas() {
@@ -182,6 +185,7 @@ func TestP1502Pure(t *testing.T) {
 }
 
 func TestP1503None(t *testing.T) {
+	t.Parallel()
 	var none *solve.Solver
 	is(t, "of nil", fmt.Sprint(none.Assume(), none.Assume(1), none.Model(), none.Steps()), "false false [] 0")
 	for _, f := range oddFormulas() {
@@ -195,6 +199,7 @@ func TestP1503None(t *testing.T) {
 }
 
 func TestP1503Solver(t *testing.T) {
+	t.Parallel()
 	f := cnf.Formula{N: 3, L: [][]int{{1, 2}, {-2, 3}}}
 	s := solve.New(f)
 	is(t, "at first", s.Model(), "[false true true]")
@@ -238,6 +243,7 @@ func TestP1503Solver(t *testing.T) {
 }
 
 func TestP1504Found(t *testing.T) {
+	t.Parallel()
 	models := 0
 	for seed := range uint64(60) {
 		f := threes(seed, 60, 60*int(30+seed%20)/10)

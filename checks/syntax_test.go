@@ -30,6 +30,7 @@ func shape(e api.Expr) string {
 }
 
 func TestP201Expr(t *testing.T) {
+	t.Parallel()
 	for _, c := range []struct{ src, want string }{
 		{"x - 1 - y->f", "(4 0 - (4 0 - (2 0 x) (1 1 )) (3 0 f (2 0 y)))"},
 		{"a + b * c < d % e / f", "(4 0 < (4 0 + (2 0 a) (4 0 * (2 0 b) (2 0 c))) (4 0 / (4 0 % (2 0 d) (2 0 e)) (2 0 f)))"},
@@ -60,6 +61,7 @@ func TestP201Expr(t *testing.T) {
 }
 
 func TestP201BadArg(t *testing.T) {
+	t.Parallel()
 	end := api.Token{Kind: 5, At: api.Pos{Line: 3, Col: 4}}
 	one := api.Token{Kind: 3, Text: "1", N: 1, At: api.Pos{Line: 1, Col: 1}}
 	for i, l := range [][]api.Token{nil, {}, {one}, {end, one}, {end, end}, {one, end, end}, {one, end, one, end}} {
@@ -91,6 +93,7 @@ func kinds(s string) []api.Token {
 }
 
 func TestP201Kinds(t *testing.T) {
+	t.Parallel()
 	// Words and signs are told by their texts, whether of Kind 2 or 4.
 	const head = "4:int 1:main 2:( 4:) 2:{ "
 	p, d := syntax.Parse(kinds(head + "4:return 3:zz 2:; 4:}"))
@@ -119,6 +122,7 @@ func TestP201Kinds(t *testing.T) {
 }
 
 func TestP201Stmts(t *testing.T) {
+	t.Parallel()
 	src := `struct S { int v; S * n; };
 int f(int a, S * b) {
   int x = a;
@@ -166,6 +170,7 @@ int f(int a, S * b) {
 }
 
 func TestP201Chance(t *testing.T) {
+	t.Parallel()
 	for seed := range uint64(2000) {
 		r := dice(seed)
 		want := wild{r}.prog()
@@ -278,6 +283,7 @@ func (g grammarRules) complete(sets []map[grammarItem]bool, i int) {
 }
 
 func TestP201Odd(t *testing.T) {
+	t.Parallel()
 	g := rulesOf(grammarText)
 	odd, right := 0, 0
 	for seed := range uint64(700) {
@@ -330,6 +336,7 @@ func TestP201Odd(t *testing.T) {
 }
 
 func TestP201Order(t *testing.T) {
+	t.Parallel()
 	// What a token list says first is told, whatever is wrong behind it.
 	for _, c := range []struct {
 		src  string
@@ -382,6 +389,7 @@ func wrapped(n int, ahead, s, behind string) string {
 }
 
 func TestP201Levels(t *testing.T) {
+	t.Parallel()
 	in := func(e string) string { return "int main() { return " + e + "; }" }
 	for _, c := range []struct {
 		what, src string
@@ -396,6 +404,9 @@ func TestP201Levels(t *testing.T) {
 		{"both", in(wrapped(100, "f(", wrapped(100, "(", "x", ")"), ")")), diag(2, api.Deep, 1, 20+300)},
 		{"one beside the other", in(wrapped(199, "(", "x", ")") + "+" + wrapped(199, "(", "x", ")")), api.Diag{}},
 		{"beside a sign", in("-x+" + wrapped(199, "(", "x", ")")), api.Diag{}},
+		{"beside a call", in("f(x)+g()+" + wrapped(199, "(", "x", ")")), api.Diag{}},
+		{"beside arguments", in("f(f(x), (x), -x, " + wrapped(198, "(", "x", ")") + ")"), api.Diag{}},
+		{"beside blocks", "int f() { if (x) { } else { } while (x) { } " + wrapped(198, "if (x) {", "return -x;", "}") + "}", api.Diag{}},
 		{"get", in(wrapped(199, "(", "get()", ")")), api.Diag{}},
 		{"blocks", "int f() " + wrapped(199, "{ while (x) ", "{ }", "}"), api.Diag{}},
 		{"blocks", "int f() " + wrapped(200, "{ while (x) ", "{ }", "}"), diag(2, api.Deep, 1, 9+200*12)},
@@ -422,6 +433,7 @@ func TestP201Levels(t *testing.T) {
 }
 
 func TestP201Heights(t *testing.T) {
+	t.Parallel()
 	arrows := func(n int) string { return strings.Repeat("->f", n) }
 	for _, c := range []struct {
 		what, src string
@@ -470,6 +482,7 @@ func heightAgain(e api.Expr) int {
 }
 
 func TestP202Height(t *testing.T) {
+	t.Parallel()
 	e, _ := syntax.Expr(scanned("x - 1 - y->f"))
 	is(t, "the example", syntax.Height(e), 3)
 	is(t, "one", syntax.Height(api.Expr{}), 1)
@@ -496,6 +509,7 @@ func countAgain(l []api.Stmt) int {
 }
 
 func TestP202Count(t *testing.T) {
+	t.Parallel()
 	p, _ := syntax.Text("int main() { return 1 + 2; }")
 	is(t, "of a return", syntax.Count(p), 4)
 	is(t, "of nothing", syntax.Count(api.Prog{}), 0)
@@ -574,6 +588,7 @@ func nudged(p func() api.Prog) []api.Prog {
 }
 
 func TestP202Same(t *testing.T) {
+	t.Parallel()
 	for seed := range uint64(60) {
 		make := func() api.Prog { return wild{dice(seed)}.prog() }
 		a, b := make(), make()

@@ -23,6 +23,7 @@ func showTokens(l []api.Token) string {
 }
 
 func TestP101Tokens(t *testing.T) {
+	t.Parallel()
 	for _, c := range []struct{ src, want string }{
 		{"", "5::0@1.1 "},
 		{"x->y<=10", "1:x:0@1.1 4:->:0@1.2 1:y:0@1.4 4:<=:0@1.5 3:10:10@1.7 5::0@1.9 "},
@@ -58,6 +59,7 @@ func TestP101Tokens(t *testing.T) {
 }
 
 func TestP101Wrong(t *testing.T) {
+	t.Parallel()
 	for _, c := range []struct {
 		src  string
 		want api.Diag
@@ -91,6 +93,7 @@ func TestP101Wrong(t *testing.T) {
 }
 
 func TestP101Size(t *testing.T) {
+	t.Parallel()
 	full := strings.Repeat("a ", api.MaxText/2)
 	l, d := token.Scan(full)
 	is(t, "a full text", d, api.Diag{})
@@ -174,6 +177,7 @@ func chanceText(seed uint64) string {
 }
 
 func TestP101Chance(t *testing.T) {
+	t.Parallel()
 	for seed := range uint64(3000) {
 		src := chanceText(seed)
 		l, d := token.Scan(src)
@@ -191,6 +195,7 @@ func TestP101Chance(t *testing.T) {
 }
 
 func TestP102Each(t *testing.T) {
+	t.Parallel()
 	for seed := range uint64(500) {
 		src := chanceText(seed)
 		l, d := scanAgain(src)
@@ -242,6 +247,7 @@ func TestP102Each(t *testing.T) {
 }
 
 func TestP103Words(t *testing.T) {
+	t.Parallel()
 	for _, w := range allWords {
 		must(t, w+" is a word", token.Word(w))
 		must(t, w+" is no name", !token.Name(w))
@@ -264,6 +270,7 @@ func TestP103Words(t *testing.T) {
 }
 
 func TestP103TextSame(t *testing.T) {
+	t.Parallel()
 	l, _ := token.Scan("x->y<=10 // c\n!=")
 	is(t, "Text", token.Text(l), "x -> y <= 10 !=")
 	is(t, "Text of nothing", token.Text(nil), "")
@@ -282,6 +289,7 @@ func TestP103TextSame(t *testing.T) {
 }
 
 func TestP104Again(t *testing.T) {
+	t.Parallel()
 	for seed := range uint64(1000) {
 		l, d := token.Scan(chanceText(seed))
 		if d != (api.Diag{}) {

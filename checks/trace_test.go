@@ -30,6 +30,7 @@ func verdictAgain(a, b api.Module, in []byte, fails []bool, fuel int) trace.Verd
 }
 
 func TestP3001Steps(t *testing.T) {
+	t.Parallel()
 	w, _ := translate.Do("int main() { put(65); return 7; }")
 	lines := func(fuel, most int) string {
 		var got []string
@@ -65,6 +66,7 @@ func TestP3001Steps(t *testing.T) {
 }
 
 func TestP3001Compare(t *testing.T) {
+	t.Parallel()
 	w, _ := translate.Do("int main() { put(65); return 7; }")
 	o, _ := translate.Do("int main() { put(66); return 7; }")
 	p, _ := translate.Do("int main() { put(65); return 8; }")
@@ -109,6 +111,7 @@ func TestP3001Compare(t *testing.T) {
 func show1(seed uint64) string { return show.Prog(sanely(seed)) }
 
 func TestP3002Alike(t *testing.T) {
+	t.Parallel()
 	for _, c := range []struct {
 		a, b api.Outcome
 		want bool
@@ -140,6 +143,7 @@ func TestP3002Alike(t *testing.T) {
 }
 
 func TestP3002Source(t *testing.T) {
+	t.Parallel()
 	for src, want := range wrongSources() {
 		v, d := trace.Source(src, nil, nil, 9)
 		is(t, src[:min(len(src), 200)], d, want)
@@ -158,6 +162,7 @@ func TestP3002Source(t *testing.T) {
 }
 
 func TestP3003Same(t *testing.T) {
+	t.Parallel()
 	// Also P1 and P3: whatever comes in, and fails, both do alike on the way, and at the end.
 	found := map[int]int{}
 	for seed := range uint64(3000) {

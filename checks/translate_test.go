@@ -43,6 +43,7 @@ func wrongSources() map[string]api.Diag {
 }
 
 func TestP2901Do(t *testing.T) {
+	t.Parallel()
 	const src = "int main() { return 7; }"
 	text, d := translate.Text(src)
 	is(t, "the example", d, api.Diag{})
@@ -90,6 +91,7 @@ func checkWork(t *testing.T, src string, w translate.Work, d api.Diag) {
 }
 
 func TestP2901Chance(t *testing.T) {
+	t.Parallel()
 	found := map[int]int{}
 	for seed := range uint64(500) {
 		src := show.Prog(sanely(seed))
@@ -109,6 +111,7 @@ func TestP2901Chance(t *testing.T) {
 }
 
 func TestP2902Names(t *testing.T) {
+	t.Parallel()
 	is(t, "Stages", translate.Stages(), "[1 2 4 6 18 27 28 22 23 25]")
 	translate.Stages()[0] = 9
 	is(t, "Stages are new", translate.Stages()[0], 1)
@@ -139,6 +142,7 @@ func translated(t *testing.T, n int, look func(p api.Prog, w translate.Work)) {
 }
 
 func TestP2903Read(t *testing.T) {
+	t.Parallel()
 	translated(t, 1500, func(p api.Prog, w translate.Work) {
 		m, f := blread.Read(w.Text)
 		is(t, "fault", f, api.OK)
@@ -155,6 +159,7 @@ func TestP2903Read(t *testing.T) {
 }
 
 func TestP2903Runs(t *testing.T) {
+	t.Parallel()
 	found := map[int]int{}
 	translated(t, 3000, func(p api.Prog, w translate.Work) {
 		for k := range uint64(3) {
@@ -174,6 +179,7 @@ func TestP2903Runs(t *testing.T) {
 }
 
 func TestP1Examples(t *testing.T) {
+	t.Parallel()
 	for _, c := range []struct{ src, classes string }{
 		{"S * a = new S; free(a); return 0;", "own"},
 		{"S * a = new S; int v = a->v; free(a); return v;", "own"},
@@ -198,6 +204,7 @@ func TestP1Examples(t *testing.T) {
 }
 
 func TestP2Bytes(t *testing.T) {
+	t.Parallel()
 	// The translator ends for all bytes, with a diag, or a text.
 	for seed := range uint64(2000) {
 		src := chanceText(seed)

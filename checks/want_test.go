@@ -134,6 +134,7 @@ func wantedBy(m api.Module, f, at int, i api.Instr) (l []string) {
 }
 
 func TestP1701Of(t *testing.T) {
+	t.Parallel()
 	w, f := want.Of(api.Module{})
 	is(t, "what is not right", f, api.NoMain)
 	must(t, "nothing", w == nil)
@@ -152,6 +153,7 @@ func TestP1701Of(t *testing.T) {
 }
 
 func TestP1701None(t *testing.T) {
+	t.Parallel()
 	var none *want.Wants
 	equal(t, "Formula of nil", none.Formula(), cnf.Formula{})
 	for range none.Pointers() {
@@ -172,6 +174,7 @@ func TestP1701None(t *testing.T) {
 }
 
 func TestP1702Chance(t *testing.T) {
+	t.Parallel()
 	ops := map[int]int{}
 	for _, m := range someModules(500) {
 		w, f := want.Of(m)
@@ -214,6 +217,7 @@ func TestP1702Chance(t *testing.T) {
 }
 
 func TestP1702Calls(t *testing.T) {
+	t.Parallel()
 	// An argument twice; an argument that is what the call writes; one that is asked behind it.
 	m := lowered("struct S { S * n; }; S * f(S * a, S * b) { return a; } int main() { S * x = null; S * y = null; x = f(x, y); f(x, x); f(y, null); put(y == null); y = y; x = y; x->n = y; y->n = x; return x == null; }")
 	w, _ := want.Of(m)
@@ -241,6 +245,7 @@ func harmless(m api.Module) api.Module {
 }
 
 func TestP1703Laws(t *testing.T) {
+	t.Parallel()
 	for _, m := range someModules(400) {
 		w, fault := want.Of(harmless(m))
 		is(t, "fault", fault, api.OK)

@@ -103,6 +103,9 @@ func TestP3201Count(t *testing.T) {
 		is(t, "of anything", audit.Count(v), totalsAgain(v))
 		v = translate.Work{Lower: m, Target: bl.Plain(m)}
 		is(t, "of what is not formed", audit.Count(v), totalsAgain(v))
+		v.Target = cloned(m)
+		v.Target.Funcs[0].From = []int{-1}
+		is(t, "of what is not formed, but has classes", audit.Count(v), totalsAgain(v))
 	}
 }
 

@@ -233,7 +233,7 @@ running:
 				continue running
 			}
 		}
-		for s.low <= s.n && s.value[s.low] != 0 {
+		for s.low <= s.n && s.how[s.low] != open {
 			s.low++
 		}
 		if s.low > s.n {

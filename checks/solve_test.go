@@ -112,7 +112,8 @@ func fixedAgain(f cnf.Formula, lits []int) ([]int, bool) {
 			if len(c) == 0 {
 				return nil, false
 			}
-			if len(c) == 1 && !slices.Contains(known, c[0]) {
+			others := func(l int) bool { return l != c[0] }
+			if !slices.ContainsFunc(c, others) && !slices.Contains(known, c[0]) {
 				known = append(known, c[0])
 				grown = true
 			}
@@ -142,7 +143,7 @@ func TestP1502Fixed(t *testing.T) {
 	}
 	for seed := range uint64(3000) {
 		r := dice(seed)
-		f := anyFormula(r, 7, 9, false)
+		f := anyFormula(r, 7, 9, seed%2 == 0)
 		var lits []int
 		for range r.IntN(3) {
 			if f.N > 0 {
@@ -162,6 +163,30 @@ func TestP1502Fixed(t *testing.T) {
 	is(t, "a long chain", fmt.Sprint(len(got), is1), "100000 true")
 	m, is1 := solve.Solve(cnf.Formula{N: long.N, L: append(long.L, []int{1})})
 	is(t, "a long chain", fmt.Sprint(len(m), is1, slices.Contains(m, false)), "100000 true false")
+}
+
+// A literal that stands in a clause more than once is alone in it, if no other one does.
+func TestP1502FixedRepeated(t *testing.T) {
+	t.Parallel()
+	for _, c := range []struct {
+		n    int
+		l    [][]int
+		lits []int
+		want string
+	}{
+		{2, [][]int{{-2, -2}}, nil, "[-2] true"}, {1, [][]int{{1, 1, 1}}, nil, "[1] true"}, {1, [][]int{{1, 1}}, []int{1}, "[1] true"},
+		{1, [][]int{{1, 1}}, []int{-1}, "[] false"}, {1, [][]int{{1, 1}, {-1, -1}}, nil, "[] false"}, {1, [][]int{{1, 1}, {-1}}, nil, "[] false"},
+		{2, [][]int{{1, 2, 2}}, []int{-1}, "[-1 2] true"}, {2, [][]int{{2, 1, 2}}, []int{-1}, "[-1 2] true"}, {2, [][]int{{1, 1, 2}}, []int{-1}, "[-1 2] true"},
+		{2, [][]int{{1, 2, 1, 2}}, []int{-1}, "[-1 2] true"}, {2, [][]int{{1, 1, 2, 2}}, nil, "[] true"}, {2, [][]int{{1, 1, 2, 2}}, []int{-1, -2}, "[] false"},
+		{3, [][]int{{1, 1}, {-1, -1, 2, 2}, {-2, 3, -2, 3, -1}}, nil, "[1 2 3] true"}, {2, [][]int{{1, -1, 1}}, nil, "[] true"},
+		{2, [][]int{{1, -1, -1}}, []int{1}, "[1] true"}, {2, [][]int{{1, -1, -1}}, []int{-1}, "[-1] true"}, {2, [][]int{{1, -1, 2, 2}}, []int{-1}, "[-1] true"},
+	} {
+		got, is1 := solve.Fixed(cnf.Formula{N: c.n, L: c.l}, c.lits)
+		is(t, fmt.Sprint("Fixed ", c.l, c.lits), fmt.Sprint(got, is1), c.want)
+	}
+	long := cnf.Formula{N: 2, L: [][]int{slices.Repeat([]int{1, 2}, 500000)}}
+	got, is1 := solve.Fixed(long, []int{-1, -1})
+	is(t, "a long clause of two literals", fmt.Sprint(got, is1), "[-1 2] true")
 }
 
 func TestP1502Pure(t *testing.T) {
